@@ -7,6 +7,7 @@ import (
 
 	"filespace/api"
 	"filespace/fault"
+	"filespace/sample"
 )
 
 // errorOf is a row of the chapter's table.
@@ -103,23 +104,6 @@ func codeOfChapter(s string) (string, api.Errno, bool) {
 		}
 	}
 	return "", api.OK, false
-}
-
-// words returns all texts of at most most words, with nothing in between.
-func words(alphabet []string, most int) []string {
-	all := []string{""}
-	last := all
-	for range most {
-		var next []string
-		for _, s := range last {
-			for _, word := range alphabet {
-				next = append(next, s+word)
-			}
-		}
-		all = append(all, next...)
-		last = next
-	}
-	return all
 }
 
 func checkFind(t *testing.T, s string, want api.Errno, found bool) {
@@ -266,7 +250,7 @@ func TestCodeOfOtherTexts(t *testing.T) {
 // TestCodeOfManyTexts checks P4.4 against the definition of the chapter.
 func TestCodeOfManyTexts(t *testing.T) {
 	found := 0
-	for _, s := range words([]string{":", " ", ": ", "a", "unknown fid", "file is open", "file is not open", "\xff"}, 5) {
+	for _, s := range sample.Words([]string{":", " ", ": ", "a", "unknown fid", "file is open", "file is not open", "\xff"}, 5) {
 		what, e, ok := codeOfChapter(s)
 		checkCode(t, s, what, e, ok)
 		if ok {
@@ -307,7 +291,7 @@ func TestCodeOfAt(t *testing.T) {
 			checkCode(t, fault.At(what, e), what, e, true)
 		}
 	}
-	for _, what := range words([]string{":", " ", "a", "unknown fid"}, 5) {
+	for _, what := range sample.Words([]string{":", " ", "a", "unknown fid"}, 5) {
 		checkCode(t, fault.At(what, api.ErrFid), what, api.ErrFid, true)
 	}
 }
@@ -315,7 +299,7 @@ func TestCodeOfAt(t *testing.T) {
 // TestAtOfCode checks the inverse direction of P4.4: what Code divides is what At returned, unless the place in front of the separator is empty.
 func TestAtOfCode(t *testing.T) {
 	divided := 0
-	for _, s := range words([]string{":", " ", ": ", "a", "unknown fid"}, 6) {
+	for _, s := range sample.Words([]string{":", " ", ": ", "a", "unknown fid"}, 6) {
 		what, e, ok := fault.Code(s)
 		if !ok || strings.HasPrefix(s, ": ") && what == "" {
 			continue

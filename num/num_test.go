@@ -9,6 +9,7 @@ import (
 
 	"filespace/api"
 	"filespace/num"
+	"filespace/sample"
 )
 
 // samples returns numbers that are not negative: small ones, the neighbours of powers of each base, and the ends of the ranges.
@@ -362,27 +363,10 @@ func TestParseOfText(t *testing.T) {
 	}
 }
 
-// words returns all texts of at most most bytes of an alphabet.
-func words(alphabet string, most int) []string {
-	all := []string{""}
-	last := all
-	for range most {
-		var next []string
-		for _, s := range last {
-			for i := range len(alphabet) {
-				next = append(next, s+alphabet[i:i+1])
-			}
-		}
-		all = append(all, next...)
-		last = next
-	}
-	return all
-}
-
 // TestTextOfParse checks the second half of P1.6.
 func TestTextOfParse(t *testing.T) {
 	parsed := 0
-	for _, s := range words("0179afFg+-_x \xff", 4) {
+	for _, s := range sample.Bytes("0179afFg+-_x \xff", 4) {
 		for _, base := range bases {
 			for _, most := range []int{0, 7, 100, math.MaxInt} {
 				n, e := num.Parse(s, base, most)
@@ -403,7 +387,7 @@ func TestTextOfParse(t *testing.T) {
 
 // TestFieldsOfFields checks P1.7.
 func TestFieldsOfFields(t *testing.T) {
-	for _, s := range words("ab \t\n\r\v\xff", 5) {
+	for _, s := range sample.Bytes("ab \t\n\r\v\xff", 5) {
 		l := num.Fields(s)
 		for _, f := range l {
 			if f == "" || strings.ContainsAny(f, " \t\n\r") {

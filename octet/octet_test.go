@@ -9,6 +9,7 @@ import (
 
 	"filespace/api"
 	"filespace/octet"
+	"filespace/sample"
 )
 
 // otherWidths are widths that are not from 1 to 8.
@@ -53,23 +54,6 @@ func texts() []string {
 		l = append(l, strings.Repeat("x", n-1)+"y")
 	}
 	return l
-}
-
-// words returns all texts of at most most bytes of an alphabet.
-func words(alphabet string, most int) []string {
-	all := []string{""}
-	last := all
-	for range most {
-		var next []string
-		for _, s := range last {
-			for i := range len(alphabet) {
-				next = append(next, s+alphabet[i:i+1])
-			}
-		}
-		all = append(all, next...)
-		last = next
-	}
-	return all
 }
 
 // checkGet reports a result of Get that is not the wanted one.
@@ -389,7 +373,7 @@ func TestGetTextOfPutText(t *testing.T) {
 // TestPutOfGet checks the second part of P2.7 for integers: what Get accepts is what Put returns.
 func TestPutOfGet(t *testing.T) {
 	accepted := 0
-	for _, s := range words("\x00\x01\x80\xff", 8) {
+	for _, s := range sample.Bytes("\x00\x01\x80\xff", 8) {
 		width := len(s)
 		n, next, e := octet.Get(s, 0, width)
 		if e != api.OK {
@@ -409,7 +393,7 @@ func TestPutOfGet(t *testing.T) {
 // TestPutTextOfGetText checks the second part of P2.7 for strings: what GetText accepts is what PutText returns.
 func TestPutTextOfGetText(t *testing.T) {
 	accepted := 0
-	for _, s := range words("\x00\x01\x02\x03a\xff", 6) {
+	for _, s := range sample.Bytes("\x00\x01\x02\x03a\xff", 6) {
 		for at := range len(s) + 1 {
 			text, next, e := octet.GetText(s, at)
 			if e != api.OK {
@@ -428,12 +412,12 @@ func TestPutTextOfGetText(t *testing.T) {
 
 // TestUnhexOfHex checks the third part of P2.7, in both directions.
 func TestUnhexOfHex(t *testing.T) {
-	for _, s := range append(texts(), words("\x00\x0f\x10\xaf\xff", 4)...) {
+	for _, s := range append(texts(), sample.Bytes("\x00\x0f\x10\xaf\xff", 4)...) {
 		if again, e := octet.Unhex(octet.Hex(s)); again != s || e != api.OK {
 			t.Errorf("Unhex(Hex(%.40q)) is %.40q, %d", s, again, e)
 		}
 	}
-	for _, h := range words("09afAFg \x00\xff", 4) {
+	for _, h := range sample.Bytes("09afAFg \x00\xff", 4) {
 		if s, e := octet.Unhex(h); e == api.OK && octet.Hex(s) != h {
 			t.Errorf("Unhex(%q) is %q, whose Hex is %q", h, s, octet.Hex(s))
 		}
