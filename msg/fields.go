@@ -4,38 +4,9 @@ import (
 	"slices"
 
 	"filespace/api"
+	"filespace/layout"
 	"filespace/path"
 	"filespace/stat"
-)
-
-// field is a field of a message other than Kind and Tag.
-type field int
-
-const (
-	fieldFid field = iota
-	fieldNewFid
-	fieldAuthFid
-	fieldOldTag
-	fieldMsize
-	fieldVersion
-	fieldUser
-	fieldAttach
-	fieldNames
-	fieldQids
-	fieldQid
-	fieldIounit
-	fieldMode
-	fieldPerm
-	fieldName
-	fieldOffset
-	fieldCount
-	fieldData
-	fieldStat
-	fieldErr
-	fieldLease
-	fieldTerm
-	fieldSession
-	allFields // the number of the fields above
 )
 
 // The greatest numbers of one byte and of four bytes.
@@ -50,104 +21,52 @@ const upwards = ".."
 // typeBits are the bits of which the type of a qid is a sum.
 const typeBits = api.QAuth | api.QExcl | api.QAppend | api.QDir
 
-// fieldsOf returns the fields that a kind uses, in the order in which they are checked.
-func fieldsOf(kind int) []field {
-	switch kind {
-	case api.TVersion:
-		return []field{fieldMsize, fieldVersion}
-	case api.RVersion:
-		return []field{fieldMsize, fieldVersion, fieldSession}
-	case api.TAuth:
-		return []field{fieldAuthFid, fieldUser, fieldAttach}
-	case api.RAuth, api.RAttach:
-		return []field{fieldQid}
-	case api.TAttach:
-		return []field{fieldFid, fieldAuthFid, fieldUser, fieldAttach}
-	case api.RError:
-		return []field{fieldErr}
-	case api.TFlush:
-		return []field{fieldOldTag}
-	case api.TWalk:
-		return []field{fieldFid, fieldNewFid, fieldNames}
-	case api.RWalk:
-		return []field{fieldQids}
-	case api.TOpen:
-		return []field{fieldFid, fieldMode}
-	case api.ROpen, api.RCreate:
-		return []field{fieldQid, fieldIounit}
-	case api.TCreate:
-		return []field{fieldFid, fieldName, fieldPerm, fieldMode}
-	case api.TRead:
-		return []field{fieldFid, fieldOffset, fieldCount}
-	case api.RRead:
-		return []field{fieldData}
-	case api.TWrite:
-		return []field{fieldFid, fieldOffset, fieldData}
-	case api.RWrite:
-		return []field{fieldCount}
-	case api.TClunk, api.TRemove, api.TStat:
-		return []field{fieldFid}
-	case api.RStat:
-		return []field{fieldStat}
-	case api.TWstat:
-		return []field{fieldFid, fieldStat}
-	case api.TLease:
-		return []field{fieldFid, fieldLease, fieldTerm}
-	case api.RLease:
-		return []field{fieldQid, fieldLease, fieldTerm}
-	case api.TResume:
-		return []field{fieldSession}
-	default:
-		return nil
-	}
-}
-
 // look reports whether a field is zero, and returns the error of its value where the kind of the message uses it.
-func look(m *api.Msg, f field) (isZero bool, e api.Errno) {
+func look(m *api.Msg, f layout.Field) (isZero bool, e api.Errno) {
 	switch f {
-	case fieldFid:
+	case layout.Fid:
 		return number(m.Fid, api.MaxFid)
-	case fieldNewFid:
+	case layout.NewFid:
 		return number(m.NewFid, api.MaxFid)
-	case fieldAuthFid:
+	case layout.AuthFid:
 		return number(m.AuthFid, greatestAuthFid(m.Kind))
-	case fieldOldTag:
+	case layout.OldTag:
 		return number(m.OldTag, api.MaxTag)
-	case fieldMsize:
+	case layout.Msize:
 		return number(m.Msize, greatestWord)
-	case fieldVersion:
+	case layout.Version:
 		return text(m.Version, api.MaxName)
-	case fieldUser:
+	case layout.User:
 		return text(m.User, api.MaxUserName)
-	case fieldAttach:
+	case layout.Attach:
 		return text(m.Attach, api.MaxPath)
-	case fieldNames:
+	case layout.Names:
 		return len(m.Names) == 0, checkNames(m.Names)
-	case fieldQids:
+	case layout.Qids:
 		return len(m.Qids) == 0, checkQids(m.Qids)
-	case fieldQid:
+	case layout.Qid:
 		return m.Qid == api.Qid{}, checkQid(m.Qid)
-	case fieldIounit:
+	case layout.Iounit:
 		return number(m.Iounit, api.MaxMsize)
-	case fieldMode:
+	case layout.Mode:
 		return number(m.Mode, greatestByte)
-	case fieldPerm:
+	case layout.Perm:
 		return number(m.Perm, greatestWord)
-	case fieldName:
+	case layout.Name:
 		return m.Name == "", checkName(m.Name)
-	case fieldOffset:
+	case layout.Offset:
 		return number(m.Offset, api.MaxNum)
-	case fieldCount:
+	case layout.Count:
 		return number(m.Count, api.MaxMsize)
-	case fieldData:
+	case layout.Data:
 		return text(m.Data, api.MaxMsize-api.Header)
-	case fieldStat:
+	case layout.Stat:
 		return m.Stat == api.Dir{}, stat.Check(m.Stat)
-	case fieldErr:
+	case layout.Err:
 		return m.Err == api.OK, checkErr(m.Err)
-	case fieldLease:
+	case layout.Lease:
 		return number(m.Lease, api.LeaseWrite)
-	case fieldTerm:
+	case layout.Term:
 		return number(m.Term, api.MaxTerm)
 	default:
 		return text(m.Session, api.MaxName)
@@ -155,8 +74,8 @@ func look(m *api.Msg, f field) (isZero bool, e api.Errno) {
 }
 
 // hasOthers reports whether a field that is not among the given ones is not zero.
-func hasOthers(m *api.Msg, used []field) bool {
-	for f := range allFields {
+func hasOthers(m *api.Msg, used []layout.Field) bool {
+	for f := range layout.Total {
 		if isZero, _ := look(m, f); !isZero && !slices.Contains(used, f) {
 			return true
 		}
